@@ -283,12 +283,10 @@ func checkSame(t *testing.T, g, h [][]int, orders [][]int) {
 
 func TestP4TheSameBothWays(t *testing.T) {
 	all := allGraphs(3)
-	for i, g := range all {
+	for _, g := range all {
 		orders := ordersOf(len(g))
-		for k, h := range all {
-			if len(g) < 3 || len(h) < 3 || (i+k)%5 == 0 {
-				checkSame(t, g, h, orders)
-			}
+		for _, h := range all {
+			checkSame(t, g, h, orders)
 		}
 	}
 }
